@@ -7,11 +7,12 @@ import (
 	"slices"
 
 	"bitepoint/api"
+	"bitepoint/check"
 )
 
 // Name reports whether a string is a name.
 func Name(s string) bool {
-	if !within(1, api.MaxName, len(s)) {
+	if !check.Within(1, api.MaxName, len(s)) {
 		return false
 	}
 	for i, r := range s {
@@ -26,16 +27,16 @@ func Name(s string) bool {
 
 // Check returns the part, the index in it and the error of a system.
 func Check(s api.ClSystem) (part, at int, e api.Errno) {
-	if !within(1, api.MaxClClasses, len(s.Classes)) || len(s.Codes) > api.MaxClCodes {
+	if !check.Within(1, api.MaxClClasses, len(s.Classes)) || len(s.Codes) > api.MaxClCodes {
 		return 1, 0, api.ErrLong
 	}
-	if at, e := firstError(s.Classes, classErrors(s)); e != api.OK {
+	if at, e := check.FirstError(s.Classes, classErrors(s)); e != api.OK {
 		return 2, at, e
 	}
-	if at, e := firstError(s.Codes, codeErrors(s)); e != api.OK {
+	if at, e := check.FirstError(s.Codes, codeErrors(s)); e != api.OK {
 		return 3, at, e
 	}
-	if at, e := firstError(s.Classes, look(s).circleError); e != api.OK {
+	if at, e := check.FirstError(s.Classes, look(s).circleError); e != api.OK {
 		return 4, at, e
 	}
 	return 0, 0, api.OK
@@ -112,10 +113,10 @@ func (v view) reach(class int) int {
 func (v view) covers(class, other int) bool { return has(v.covered[class], other) }
 
 // isClass reports whether a number is the index of a class.
-func (v view) isClass(class int) bool { return within(0, len(v.Classes)-1, class) }
+func (v view) isClass(class int) bool { return check.Within(0, len(v.Classes)-1, class) }
 
 // isSet reports whether a number is a set of codes, or of features.
-func (v view) isSet(set int) bool { return within(0, 1<<len(v.Codes)-1, set) }
+func (v view) isSet(set int) bool { return check.Within(0, 1<<len(v.Codes)-1, set) }
 
 // circleError returns ErrDown for a class that includes one that covers it.
 func (v view) circleError(at int, c api.ClClass) api.Errno {
@@ -140,11 +141,11 @@ func classErrors(s api.ClSystem) func(at int, c api.ClClass) api.Errno {
 			return api.ErrTwice
 		case len(c.Includes) > len(s.Classes):
 			return api.ErrLong
-		case !within(0, last, c.Includes...) || !within(-1, last, c.Needs):
+		case !check.Within(0, last, c.Includes...) || !check.Within(-1, last, c.Needs):
 			return api.ErrNone
 		case c.Needs == at:
 			return api.ErrArg
-		case !within(0, api.MaxClYears, c.Age, c.Term):
+		case !check.Within(0, api.MaxClYears, c.Age, c.Term):
 			return api.ErrRange
 		}
 		return api.OK
@@ -162,27 +163,6 @@ func codeErrors(s api.ClSystem) func(at int, code string) api.Errno {
 		}
 		return api.OK
 	}
-}
-
-// firstError returns the index and the error of the first element of a list
-// that has one.
-func firstError[T any](list []T, errorOf func(at int, element T) api.Errno) (int, api.Errno) {
-	for at, element := range list {
-		if e := errorOf(at, element); e != api.OK {
-			return at, e
-		}
-	}
-	return 0, api.OK
-}
-
-// within reports whether all numbers are from lo to hi.
-func within(lo, hi int, numbers ...int) bool {
-	for _, n := range numbers {
-		if n < lo || n > hi {
-			return false
-		}
-	}
-	return true
 }
 
 // has reports whether a bit of a set is 1.

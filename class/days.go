@@ -1,6 +1,9 @@
 package class
 
-import "bitepoint/api"
+import (
+	"bitepoint/api"
+	"bitepoint/check"
+)
 
 // firstYear is the year of the day 0.
 const firstYear = 2000
@@ -10,7 +13,7 @@ var monthDays = [12]int{31, 28, 31, 30, 31, 30, 31, 31, 30, 31, 30, 31}
 
 // Day returns the day of a date.
 func Day(d api.ClDate) (int, api.Errno) {
-	if !within(1, 12, d.Month) || !within(1, daysOfMonth(d.Year, d.Month), d.Day) {
+	if !check.Within(1, 12, d.Month) || !check.Within(1, daysOfMonth(d.Year, d.Month), d.Day) {
 		return 0, api.ErrForm
 	}
 	if d.Year < firstYear {
@@ -25,7 +28,7 @@ func Day(d api.ClDate) (int, api.Errno) {
 
 // Date returns the date of a day.
 func Date(day int) (api.ClDate, api.Errno) {
-	if !within(0, api.MaxDay, day) {
+	if !check.Within(0, api.MaxDay, day) {
 		return api.ClDate{}, api.ErrRange
 	}
 	return dateOf(day), api.OK
@@ -33,7 +36,7 @@ func Date(day int) (api.ClDate, api.Errno) {
 
 // Plus returns a day plus years and months.
 func Plus(day, years, months int) (int, api.Errno) {
-	if !within(0, api.MaxDay, day) || !within(0, api.MaxClYears, years) || !within(0, api.MaxClMonths, months) {
+	if !check.Within(0, api.MaxDay, day) || !check.Within(0, api.MaxClYears, years) || !check.Within(0, api.MaxClMonths, months) {
 		return 0, api.ErrRange
 	}
 	sum := plus(day, years, months)
@@ -45,7 +48,7 @@ func Plus(day, years, months int) (int, api.Errno) {
 
 // Age returns how old somebody is.
 func Age(born, day int) (int, api.Errno) {
-	if !within(0, api.MaxDay, born, day) {
+	if !check.Within(0, api.MaxDay, born, day) {
 		return 0, api.ErrRange
 	}
 	if day < born {

@@ -7,6 +7,7 @@ import (
 	"slices"
 
 	"bitepoint/api"
+	"bitepoint/check"
 )
 
 // May returns whether rights allow a vehicle.
@@ -69,7 +70,7 @@ func (v view) rightsError(rights []api.ClRight) api.Errno {
 	if len(rights) > api.MaxClRights {
 		return api.ErrLong
 	}
-	_, e := firstError(rights, func(_ int, r api.ClRight) api.Errno {
+	_, e := check.FirstError(rights, func(_ int, r api.ClRight) api.Errno {
 		if !v.isClass(r.Class) {
 			return api.ErrNone
 		}

@@ -1,0 +1,25 @@
+// Package check contains what the layers share for checking their arguments.
+package check
+
+import "bitepoint/api"
+
+// FirstError returns the index and the error of the first element of a list
+// that has one.
+func FirstError[T any](list []T, errorOf func(at int, element T) api.Errno) (int, api.Errno) {
+	for at, element := range list {
+		if e := errorOf(at, element); e != api.OK {
+			return at, e
+		}
+	}
+	return 0, api.OK
+}
+
+// Within reports whether all numbers are from lo to hi.
+func Within(lo, hi int, numbers ...int) bool {
+	for _, n := range numbers {
+		if n < lo || n > hi {
+			return false
+		}
+	}
+	return true
+}
