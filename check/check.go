@@ -23,3 +23,11 @@ func Within(lo, hi int, numbers ...int) bool {
 	}
 	return true
 }
+
+// Demand panics if what the form of a text needs does not hold: a reader is
+// left by it from anywhere, and whoever calls the reader recovers.
+func Demand(holds bool) {
+	if !holds {
+		panic(api.ErrForm)
+	}
+}

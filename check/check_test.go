@@ -43,3 +43,14 @@ func TestFirstError(t *testing.T) {
 		}
 	}
 }
+
+func TestDemand(t *testing.T) {
+	panics := func(holds bool) (does bool) {
+		defer func() { does = recover() != nil }()
+		check.Demand(holds)
+		return false
+	}
+	if panics(true) || !panics(false) {
+		t.Errorf("Demand panics with true: %t, with false: %t", panics(true), panics(false))
+	}
+}

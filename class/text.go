@@ -5,6 +5,7 @@ import (
 	"strings"
 
 	"bitepoint/api"
+	"bitepoint/check"
 )
 
 // noRights is the text of a list without rights.
@@ -60,7 +61,7 @@ func (v view) readRights(text string) []api.ClRight {
 		return nil
 	}
 	words := strings.Split(text, " ")
-	demand(len(words) <= api.MaxClRights)
+	check.Demand(len(words) <= api.MaxClRights)
 	rights := make([]api.ClRight, len(words))
 	for i, word := range words {
 		rights[i] = v.readRight(word)
@@ -72,21 +73,14 @@ func (v view) readRights(text string) []api.ClRight {
 func (v view) readRight(word string) api.ClRight {
 	parts := strings.Split(word, ".")
 	class := slices.IndexFunc(v.Classes, func(c api.ClClass) bool { return c.Name == parts[0] })
-	demand(class >= 0)
+	check.Demand(class >= 0)
 	codes, last := 0, -1
 	for _, name := range parts[1:] {
 		code := slices.Index(v.Codes, name)
 		// This refuses a name that is no code, too: its index is -1.
-		demand(code > last)
+		check.Demand(code > last)
 		codes |= 1 << code
 		last = code
 	}
 	return api.ClRight{Class: class, Codes: codes}
-}
-
-// demand panics if what a text needs does not hold.
-func demand(holds bool) {
-	if !holds {
-		panic(api.ErrForm)
-	}
 }
