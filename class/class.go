@@ -8,6 +8,7 @@ import (
 
 	"bitepoint/api"
 	"bitepoint/check"
+	"bitepoint/sets"
 )
 
 // Name reports whether a string is a name.
@@ -97,7 +98,7 @@ func (v view) reach(class int) int {
 	found := 0
 	var visit func(next int)
 	visit = func(next int) {
-		if has(found, next) {
+		if sets.Has(found, next) {
 			return
 		}
 		found |= 1 << next
@@ -110,7 +111,7 @@ func (v view) reach(class int) int {
 }
 
 // covers reports whether a class covers another one.
-func (v view) covers(class, other int) bool { return has(v.covered[class], other) }
+func (v view) covers(class, other int) bool { return sets.Has(v.covered[class], other) }
 
 // isClass reports whether a number is the index of a class.
 func (v view) isClass(class int) bool { return check.Within(0, len(v.Classes)-1, class) }
@@ -164,6 +165,3 @@ func codeErrors(s api.ClSystem) func(at int, code string) api.Errno {
 		return api.OK
 	}
 }
-
-// has reports whether a bit of a set is 1.
-func has(set, bit int) bool { return set>>bit&1 == 1 }

@@ -6,6 +6,7 @@ import (
 
 	"bitepoint/api"
 	"bitepoint/check"
+	"bitepoint/sets"
 )
 
 // noRights is the text of a list without rights.
@@ -48,7 +49,7 @@ func Read(s api.ClSystem, text string) (rights []api.ClRight, e api.Errno) {
 func (v view) word(r api.ClRight) string {
 	parts := []string{v.Classes[r.Class].Name}
 	for code, name := range v.Codes {
-		if has(r.Codes, code) {
+		if sets.Has(r.Codes, code) {
 			parts = append(parts, name)
 		}
 	}
