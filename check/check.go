@@ -1,7 +1,11 @@
 // Package check contains what the layers share for checking their arguments.
 package check
 
-import "bitepoint/api"
+import (
+	"strconv"
+
+	"bitepoint/api"
+)
 
 // FirstError returns the index and the error of the first element of a list
 // that has one.
@@ -30,4 +34,12 @@ func Demand(holds bool) {
 	if !holds {
 		panic(api.ErrForm)
 	}
+}
+
+// Number returns the number with a decimal form, for readers: it panics if
+// there is none.
+func Number(digits string) int {
+	n, err := strconv.Atoi(digits)
+	Demand(err == nil && strconv.Itoa(n) == digits)
+	return n
 }

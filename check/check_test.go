@@ -44,13 +44,30 @@ func TestFirstError(t *testing.T) {
 	}
 }
 
+// panics reports whether a call panics.
+func panics(call func()) (does bool) {
+	defer func() { does = recover() != nil }()
+	call()
+	return false
+}
+
 func TestDemand(t *testing.T) {
-	panics := func(holds bool) (does bool) {
-		defer func() { does = recover() != nil }()
-		check.Demand(holds)
-		return false
+	for _, holds := range []bool{true, false} {
+		if does := panics(func() { check.Demand(holds) }); does == holds {
+			t.Errorf("Demand of %t panics: %t", holds, does)
+		}
 	}
-	if panics(true) || !panics(false) {
-		t.Errorf("Demand panics with true: %t, with false: %t", panics(true), panics(false))
+}
+
+func TestNumber(t *testing.T) {
+	for digits, want := range map[string]int{"0": 0, "7": 7, "10": 10, "240": 240, "-1": -1, "9223372036854775807": math.MaxInt, "-9223372036854775808": math.MinInt} {
+		if n := check.Number(digits); n != want {
+			t.Errorf("Number of %q = %d", digits, n)
+		}
+	}
+	for _, digits := range []string{"", "-", "00", "07", "+7", "-0", "-07", " 7", "7 ", "7\n", "x", "7x", "0x7", "1_0", "1e2", "1.0", "٣", "9223372036854775808"} {
+		if !panics(func() { check.Number(digits) }) {
+			t.Errorf("Number of %q does not panic", digits)
+		}
 	}
 }

@@ -82,18 +82,11 @@ func (v view) read(text string) (int, []api.StStep) {
 	for rest != "" {
 		back := strings.HasPrefix(rest, backSign)
 		rest = rest[1:]
-		steps = append(steps, api.StStep{Street: number(take(placeSign)), Back: back})
+		steps = append(steps, api.StStep{Street: check.Number(take(placeSign)), Back: back})
 		take(thereSign + backSign)
 	}
 	// What the tour of these steps would be written as is compared as a whole:
-	// so neither the forms of numbers nor the places on the way need a look.
+	// so the places on the way need no look.
 	check.Demand(v.stepsError(from, steps) == api.OK && v.text(from, steps) == text)
 	return from, steps
-}
-
-// number returns the number with a decimal form. It panics if there is none.
-func number(digits string) int {
-	n, err := strconv.Atoi(digits)
-	check.Demand(err == nil)
-	return n
 }
