@@ -54,7 +54,8 @@ func newBooks(s api.BkSchool) *books {
 	return b
 }
 
-// tell does an event, or returns the error with which it is refused.
+// tell does an event, or returns the error with which it is refused. What an
+// event needs is left by a panic, so it must come before all that it does.
 func (b *books) tell(event api.BkEvent) (refusal api.Errno) {
 	defer func() {
 		if e, is := recover().(api.Errno); is {
@@ -70,36 +71,28 @@ func (b *books) tell(event api.BkEvent) (refusal api.Errno) {
 		api.BkCrash:   (*books).crash,
 		api.BkPay:     (*books).pay,
 	}
-	need(check.Within(0, len(kinds)-1, event.Kind), api.ErrArg)
-	need(isHour(event.At) && event.At >= b.time, api.ErrRange)
+	check.Need(check.Within(0, len(kinds)-1, event.Kind), api.ErrArg)
+	check.Need(isHour(event.At) && event.At >= b.time, api.ErrRange)
 	kinds[event.Kind](b, event)
 	b.time = event.At
 	return api.OK
 }
 
-// need panics with an error if what an event needs does not hold: the event is
-// left by it, so it must come before all that the event does.
-func need(holds bool, e api.Errno) {
-	if !holds {
-		panic(e)
-	}
-}
-
 // book opens a lesson.
 func (b *books) book(event api.BkEvent) {
-	need(b.isLearner(event.Learner) && b.isCar(event.Car), api.ErrNone)
-	need(isLength(event.Hours) && isHour(event.Start), api.ErrRange)
+	check.Need(b.isLearner(event.Learner) && b.isCar(event.Car), api.ErrNone)
+	check.Need(isLength(event.Hours) && isHour(event.Start), api.ErrRange)
 	l := api.BkLesson{Learner: event.Learner, Car: event.Car, Start: event.Start, Hours: event.Hours}
 	e := b.lessonError(l, event.At)
-	need(e == api.OK, e)
+	check.Need(e == api.OK, e)
 	b.Lessons = append(b.Lessons, l)
 }
 
 // cancel cancels a lesson, for its fee.
 func (b *books) cancel(event api.BkEvent) {
-	need(b.isLesson(event.Booking, api.BkOpen), api.ErrNone)
+	check.Need(b.isLesson(event.Booking, api.BkOpen), api.ErrNone)
 	l := &b.Lessons[event.Booking]
-	need(event.At < l.Start, api.ErrArg)
+	check.Need(event.At < l.Start, api.ErrArg)
 	l.State = api.BkCancelled
 	b.post(l.Learner, b.account(school), fee(b.BkSchool, l.Hours, l.Start-event.At))
 }
@@ -107,7 +100,7 @@ func (b *books) cancel(event api.BkEvent) {
 // weather gives a day a weather, and moves the lessons that can't be driven in
 // it.
 func (b *books) weather(event api.BkEvent) {
-	need(check.Within(0, lastDay, event.Day) && check.Within(0, api.BkWeathers-1, event.Weather), api.ErrRange)
+	check.Need(check.Within(0, lastDay, event.Day) && check.Within(0, api.BkWeathers-1, event.Weather), api.ErrRange)
 	b.weathers[event.Day] |= 1 << event.Weather
 	for number, l := range b.openLessons() {
 		if dayOf(l.Start) == event.Day && l.Start > event.At && sets.Has(b.Cars[l.Car].Never, event.Weather) {
@@ -118,11 +111,11 @@ func (b *books) weather(event api.BkEvent) {
 
 // drive ends a lesson that was driven.
 func (b *books) drive(event api.BkEvent) {
-	need(b.isLesson(event.Booking, api.BkOpen), api.ErrNone)
+	check.Need(b.isLesson(event.Booking, api.BkOpen), api.ErrNone)
 	l := &b.Lessons[event.Booking]
-	need(event.At >= endOf(*l), api.ErrArg)
-	need(check.Within(0, api.MaxBkDriven, event.Km), api.ErrRange)
-	need(b.Since[l.Car] <= b.Cars[l.Car].Every, api.ErrDown)
+	check.Need(event.At >= endOf(*l), api.ErrArg)
+	check.Need(check.Within(0, api.MaxBkDriven, event.Km), api.ErrRange)
+	check.Need(b.Since[l.Car] <= b.Cars[l.Car].Every, api.ErrDown)
 	l.State = api.BkDriven
 	b.Km[l.Car] += event.Km
 	b.Since[l.Car] += event.Km
@@ -131,16 +124,16 @@ func (b *books) drive(event api.BkEvent) {
 
 // service lets the garage service a car.
 func (b *books) service(event api.BkEvent) {
-	need(b.isCar(event.Car), api.ErrNone)
-	need(isAmount(event.Cents), api.ErrRange)
+	check.Need(b.isCar(event.Car), api.ErrNone)
+	check.Need(isAmount(event.Cents), api.ErrRange)
 	b.Since[event.Car] = 0
 	b.post(b.account(school), b.account(garage), event.Cents)
 }
 
 // crash lets the school and the insurer pay the damage of a lesson.
 func (b *books) crash(event api.BkEvent) {
-	need(b.isLesson(event.Booking, api.BkDriven), api.ErrNone)
-	need(isAmount(event.Cents), api.ErrRange)
+	check.Need(b.isLesson(event.Booking, api.BkDriven), api.ErrNone)
+	check.Need(isAmount(event.Cents), api.ErrRange)
 	b.Lessons[event.Booking].State = api.BkCrashed
 	own := min(event.Cents, b.Excess)
 	b.post(b.account(school), b.account(garage), own)
@@ -149,8 +142,8 @@ func (b *books) crash(event api.BkEvent) {
 
 // pay lets a learner pay into their account.
 func (b *books) pay(event api.BkEvent) {
-	need(b.isLearner(event.Learner), api.ErrNone)
-	need(isAmount(event.Cents), api.ErrRange)
+	check.Need(b.isLearner(event.Learner), api.ErrNone)
+	check.Need(isAmount(event.Cents), api.ErrRange)
 	b.post(b.account(world), event.Learner, event.Cents)
 }
 

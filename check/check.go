@@ -28,13 +28,17 @@ func Within(lo, hi int, numbers ...int) bool {
 	return true
 }
 
-// Demand panics if what the form of a text needs does not hold: a reader is
-// left by it from anywhere, and whoever calls the reader recovers.
-func Demand(holds bool) {
+// Need panics with an error if what something needs does not hold: it is left
+// by it from anywhere, and whoever calls it recovers.
+func Need(holds bool, e api.Errno) {
 	if !holds {
-		panic(api.ErrForm)
+		panic(e)
 	}
 }
+
+// Demand does as Need, with ErrForm, for readers: it panics if what the form of
+// a text needs does not hold.
+func Demand(holds bool) { Need(holds, api.ErrForm) }
 
 // Number returns the number with a decimal form, for readers: it panics if
 // there is none.

@@ -45,17 +45,32 @@ func TestFirstError(t *testing.T) {
 }
 
 // panics reports whether a call panics.
-func panics(call func()) (does bool) {
-	defer func() { does = recover() != nil }()
+func panics(call func()) bool { return panicOf(call) != nil }
+
+// panicOf is what a call panics with, or nil.
+func panicOf(call func()) (with any) {
+	defer func() { with = recover() }()
 	call()
-	return false
+	return nil
+}
+
+func TestNeed(t *testing.T) {
+	for _, e := range []api.Errno{api.OK, api.ErrArg, api.ErrDown} {
+		if with := panicOf(func() { check.Need(true, e) }); with != nil {
+			t.Errorf("Need of true, %d panics with %v", e, with)
+		}
+		if with := panicOf(func() { check.Need(false, e) }); with != e {
+			t.Errorf("Need of false, %d panics with %v", e, with)
+		}
+	}
 }
 
 func TestDemand(t *testing.T) {
-	for _, holds := range []bool{true, false} {
-		if does := panics(func() { check.Demand(holds) }); does == holds {
-			t.Errorf("Demand of %t panics: %t", holds, does)
-		}
+	if with := panicOf(func() { check.Demand(true) }); with != nil {
+		t.Errorf("Demand of true panics with %v", with)
+	}
+	if with := panicOf(func() { check.Demand(false) }); with != api.ErrForm {
+		t.Errorf("Demand of false panics with %v", with)
 	}
 }
 
